@@ -229,7 +229,7 @@ func TestP100RoomBehind(t *testing.T) {
 	}
 }
 
-// TestP101Published: FIPS 197, appendices B and C, and SP 800-38A, F.1.
+// TestP101Published: FIPS 197, appendices B and C, SP 800-38A, F.1, and bytes 0 alone by a key of them.
 func TestP101Published(t *testing.T) {
 	const (
 		rising = "000102030405060708090a0b0c0d0e0f101112131415161718191a1b1c1d1e1f"
